@@ -15,8 +15,8 @@ type builder struct {
 	begin []api.Subject
 	now   *pick.Play
 	moves []api.Move
-	names map[api.Fact]string // what was handed on already, and under which name it stands
-	used  map[slot]int        // names that are taken
+	names map[api.Fact]slot // what was handed on already, and under which name it stands
+	used  map[slot]int      // names that are taken
 	rules [6]func(l api.Link, in *cargo) string
 }
 
@@ -41,7 +41,7 @@ func build(w *world.World, links []api.Link, l []api.Subject) (moves []api.Move,
 	if e != api.OK {
 		return nil, false
 	}
-	b := &builder{links: links, begin: l, now: p, names: make(map[api.Fact]string), used: make(map[slot]int)}
+	b := &builder{links: links, begin: l, now: p, names: make(map[api.Fact]slot), used: make(map[slot]int)}
 	b.rules = [...]func(l api.Link, in *cargo) string{b.world, b.lie, b.box, b.none, b.made, b.none}
 	for who, s := range l {
 		for _, n := range s.Names {
@@ -67,12 +67,12 @@ func build(w *world.World, links []api.Link, l []api.Subject) (moves []api.Move,
 // What goes into boxes that are made later is brought anew each time: a box has just what was sealed in it.
 func (b *builder) hold(link int, in *cargo) string {
 	l := b.links[link]
-	if name, ok := b.names[l.Fact]; ok && in == nil {
-		return name
+	if known, ok := b.names[l.Fact]; ok && in == nil {
+		return known.name
 	}
 	name := b.rules[l.Rule](l, in)
 	if in == nil {
-		b.names[l.Fact] = name
+		b.names[l.Fact] = slot{l.Fact.By.Subject, name}
 	}
 	return name
 }
