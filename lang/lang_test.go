@@ -125,6 +125,7 @@ func TestP17_2Read(t *testing.T) {
 		{"x = 01", 4, api.ErrForm}, {"x = A", 4, api.ErrForm}, {"x = (  A", 7, api.ErrForm}, {strings.Repeat(" ", api.MaxLine+1), 0, api.ErrLong},
 		{"a = 1 ; if same a a { b = 1 ; x x = make seal } else { }", 30, api.ErrCode}, {"k = make clerk [ a a ] { }", 0, api.ErrCode}, {"x = " + strings.Repeat("[", 17) + strings.Repeat("]", 17), 0, api.ErrCode}, {"y = 1; x = " + strings.Repeat("[", 9000) + strings.Repeat("]", 9000), 7, api.ErrCode},
 		{"y = 1; x = " + strings.Repeat("[", 9000) + "=", 9011, api.ErrSyntax}, {"y = 1; x = " + strings.Repeat("[", 9000), 9011, api.ErrSyntax}, {`y = 1; x = "` + strings.Repeat("a", 257) + `"`, 7, api.ErrCode}, {"x = [" + strings.Repeat("1 ", 512) + "]", 0, api.ErrCode},
+		{"x x = make seal 5", 16, api.ErrSyntax}, {"x x = make seal } ", 16, api.ErrSyntax}, {"y = 1 ; x x = make seal ; z = get _", 34, api.ErrSyntax}, {strings.Repeat("x=1;", 512) + "y=1 2", 2052, api.ErrSyntax},
 		{strings.Repeat("x=1;", 512) + "y=1", 2048, api.ErrLong}, {strings.Repeat("x=1;", 512) + "y=(", 2050, api.ErrSyntax}, {strings.Repeat("if same x x{", 600) + strings.Repeat("}else{}", 600), 512 * 12, api.ErrLong}, {"q q=make seal;" + strings.Repeat("if same x x{", 600) + strings.Repeat("}else{}", 600), 0, api.ErrCode},
 	} {
 		if got, at, e := Read(p.s); got != nil || at != p.at || e != p.e {

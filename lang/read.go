@@ -12,12 +12,14 @@ func Read(s string) (c []api.Stmt, at int, e api.Errno) {
 	if e != api.OK {
 		return nil, at, e
 	}
-	c, n, e := Front(l...)
-	if e == api.OK && n < len(l) {
-		e = api.ErrSyntax
+	p := &parser{l: l}
+	// What does not go on comes ahead of what may not be, wherever both stand.
+	n, ok := p.goesOn(func() { c = p.code(api.MaxCode) })
+	if !ok || n < len(l) {
+		return nil, place(s, l, n), api.ErrSyntax
 	}
-	if e != api.OK {
-		return nil, place(s, l, n), e
+	if at, e := code.Check(c); e != api.OK {
+		return nil, place(s, l, p.starts[at]), e
 	}
 	return c, 0, api.OK
 }
