@@ -193,6 +193,15 @@ func TestP9_4Pairs(t *testing.T) {
 	for range all {
 		break
 	}
+	// What is told is as it was when the walk began.
+	told = nil
+	for r, n := range all {
+		told = append(told, int(r), n)
+		w.Drop(3, 4, 6, 9)
+	}
+	if !reflect.DeepEqual(told, []int{1, 2, 3, 2}) || w.Is(3) {
+		t.Error(told)
+	}
 }
 
 func TestP9_5Unlocked(t *testing.T) {
