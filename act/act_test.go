@@ -197,21 +197,35 @@ func TestP14_1Order(t *testing.T) {
 	does(t, w, 1, x.c, api.Give, none, none, api.ErrUnable)
 	does(t, w, 1, x.p, api.Take, num(99), none, api.ErrCut)
 	does(t, w, 0, x.c, api.Get, none, num(1), 0)
+	far := make1(t, w, 1, api.Making{Kind: api.Tap, Of: x.p})[0]
+	p2, _ := Do(w, 0, x.p, api.Take, num(1), nil)
+	does(t, w, 0, p2.R, api.Give, ref(far), none, api.ErrCut)
+	does(t, w, 0, p2.R, api.Give, ref(x.p), none, 0)
+}
+
+func TestP14_3Why(t *testing.T) {
+	x := lay(t, 0)
+	w := x.w
+	w.CutEdge(1)
+	before := w.Copy()
 	for i, c := range []struct {
 		from api.Side
 		r    api.Ref
 		by   api.Able
 		v    api.Value
 		e    api.Errno
-	}{{1, x.c, api.Get, none, api.ErrCut}, {1, x.c, api.Give, none, api.ErrUnable}, {0, x.p, api.Take, text("x"), 0}, {0, 99, api.Get, none, api.ErrRef}, {0, x.c, 0, none, api.ErrArg}, {0, x.p, api.Give, none, 0}} {
+	}{
+		{1, x.c, api.Get, none, api.ErrCut}, {1, x.c, api.Give, none, api.ErrUnable}, {0, 99, api.Get, none, api.ErrRef}, {0, x.c, api.Put, ref(99), api.ErrRef}, {0, x.c, 0, none, api.ErrArg}, {2, 99, api.Get, none, api.ErrArg}, {0, x.c, api.Get, num(1), api.ErrArg}, {0, x.c, api.Put, ref(0), api.ErrArg},
+		// What the base would say is not asked.
+		{0, x.p, api.Take, text("x"), 0}, {0, x.p, api.Take, num(99), 0}, {0, x.p, api.Give, none, 0}, {0, x.q, api.Put, num(2), 0}, {0, x.s, api.Cut, none, 0},
+	} {
 		if e := Why(w, c.from, c.r, c.by, c.v); e != c.e {
 			t.Error(i, e)
 		}
 	}
-	far := make1(t, w, 1, api.Making{Kind: api.Tap, Of: x.p})[0]
-	p2, _ := Do(w, 0, x.p, api.Take, num(1), nil)
-	does(t, w, 0, p2.R, api.Give, ref(far), none, api.ErrCut)
-	does(t, w, 0, p2.R, api.Give, ref(x.p), none, 0)
+	if !world.Same(w, before) {
+		t.Error("something was done")
+	}
 }
 
 // clerk makes a thing that is asked, and a tap before it.
